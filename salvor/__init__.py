@@ -1,0 +1,1 @@
+"""Salvor: a checker of stores that must survive crashes."""
