@@ -49,6 +49,21 @@ def depth(e):
     return levels
 
 
+def copy_store(store):
+    """Returns an equal store that shares no list with this one."""
+    return copy_parts(store[:-1]) + (copy_parts(store[-1]),)
+
+
+def copy_parts(parts):
+    """Returns an equal tuple whose lists are new ones, and the lists in these too."""
+    return tuple([copy_list(part) if isinstance(part, list) else part for part in parts])
+
+
+def copy_list(items):
+    """Returns an equal list of statements or expressions."""
+    return [copy_parts(item) for item in items]
+
+
 def require(kept, rule):
     """Raises StoreError with the name of a rule that is not kept."""
     if not kept:

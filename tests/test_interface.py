@@ -1,0 +1,42 @@
+"""The names, arguments and places that the interface lists, as far as they have landed."""
+
+import importlib
+import inspect
+import unittest
+
+FUNCTIONS = {
+    "salvor.words": {"wrap": ["n"], "combine": ["operator", "a", "b"]},
+    "salvor.stores": {"check": ["store"], "depth": ["e"]},
+    "salvor.disks": {"blank": ["sectors", "width"]},
+    "salvor.images": {"choices": ["snapshot", "sector", "tears"], "image": ["snapshot", "tears", "row"],
+                      "rows": ["snapshot", "tears"], "distinct": ["snapshot", "tears"]},
+}
+CLASSES = {
+    "salvor.errors": {"SalvorError": {}, "StoreError": {}, "LimitError": {}, "PathError": {}},
+    "salvor.disks": {"Disk": {"__init__": ["contents"], "look": ["sector"], "write": ["sector", "words"],
+                              "barrier": [], "snapshot": []}},
+    "salvor.machine": {"Machine": {"__init__": ["store", "contents"], "run": ["body", "given"],
+                                   "value": ["e", "given"], "take_cuts": [], "mapping": [], "duplicate": []}},
+}
+
+
+class Interface(unittest.TestCase):
+    def test_functions(self):
+        for where, functions in FUNCTIONS.items():
+            for name, arguments in functions.items():
+                function = vars(importlib.import_module(where))[name]
+                self.assertEqual(function.__module__, where, name)
+                self.assertEqual(list(inspect.signature(function).parameters), arguments, name)
+
+    def test_classes(self):
+        for where, classes in CLASSES.items():
+            for name, methods in classes.items():
+                found = vars(importlib.import_module(where))[name]
+                self.assertEqual(found.__module__, where, name)
+                for method, arguments in methods.items():
+                    listed = list(inspect.signature(vars(found)[method]).parameters)
+                    self.assertEqual(listed, ["self"] + arguments, (name, method))
+
+
+if __name__ == "__main__":
+    unittest.main()
