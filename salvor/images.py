@@ -22,12 +22,25 @@ def rows(snapshot, tears):
 
 def distinct(snapshot, tears):
     """Returns the pairs of a row and its image for the different images, in ascending order of the rows."""
+    return list(leftovers(snapshot, tears))
+
+
+def leftovers(snapshot, tears):
+    """Yields what distinct returns, one by one: there may be far more than anyone looks at."""
     # The sectors are independent: the first row of an image has the first choice of each of its sectors.
-    found = [((), ())]
-    for sector in range(len(snapshot[0])):
-        firsts = first_choices(snapshot, sector, tears)
-        found = [(row + (choice,), left + (words,)) for row, left in found for choice, words in firsts]
-    return found
+    firsts = [first_choices(snapshot, sector, tears) for sector in range(len(snapshot[0]))]
+    yield from combined(firsts)
+
+
+def combined(firsts):
+    """Yields the rows and images that the pairs of a choice and its words make, one pair for each sector."""
+    if not firsts:
+        yield (), ()
+    else:
+        rest = firsts[1:]
+        for choice, words in firsts[0]:
+            for row, left in combined(rest):
+                yield (choice,) + row, (words,) + left
 
 
 def first_choices(snapshot, sector, tears):

@@ -88,14 +88,19 @@ class Machine:
 
     def mapping(self):
         """Returns the tuple of the words that get finds for the keys."""
-        return tuple([self.duplicate().look_up(key) for key in range(self.store[3])])
+        return tuple([self.look_up(key) for key in range(self.store[3])])
 
     def look_up(self, key):
-        """Executes the body of get with a key, and returns the value of the expression of get."""
+        """Returns the word that get finds for a key."""
+        # Variables of its own make a duplicate here: get changes nothing else, as it may not write.
+        kept = self.variables
+        self.variables = list(kept)
         body, e = self.store[8]
         given = {"key": key}
         self.run(body, given)
-        return self.value(e, given)
+        word = self.value(e, given)
+        self.variables = kept
+        return word
 
     def duplicate(self):
         """Returns a machine in the same state that has no cuts."""

@@ -3,6 +3,10 @@
 from salvor.errors import StoreError
 from salvor.words import WORDS
 
+# Where the bodies stand in a store.
+PUT = 5
+SYNC = 6
+RECOVER = 7
 LEAVES = ("num", "var", "key", "value")
 MOST_SECTORS = 6
 MOST_WIDTH = 4

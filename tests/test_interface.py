@@ -10,6 +10,11 @@ FUNCTIONS = {
     "salvor.disks": {"blank": ["sectors", "width"]},
     "salvor.images": {"choices": ["snapshot", "sector", "tears"], "image": ["snapshot", "tears", "row"],
                       "rows": ["snapshot", "tears"], "distinct": ["snapshot", "tears"]},
+    "salvor.sessions": {"after": ["mapping", "deed"], "session_cuts": ["machine", "deeds", "base"]},
+    "salvor.states": {"first_state": ["store"], "later_cuts": ["store", "sessions", "state"],
+                      "successors": ["cuts", "tears"]},
+    "salvor.catalogue": {"plain_store": ["keys", "barriers"], "two_slots": ["barriers"],
+                         "journal_store": ["keys", "ordered"]},
 }
 CLASSES = {
     "salvor.errors": {"SalvorError": {}, "StoreError": {}, "LimitError": {}, "PathError": {}},

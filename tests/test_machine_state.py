@@ -1,15 +1,14 @@
-"""Whole machines: points 5.1 to 5.3, mappings, duplicates, and runs one behind the other."""
+"""Whole machines: points 5.1 to 5.3, mappings, duplicates, and any stores against a second machine."""
 
 import copy
 import random
 import unittest
 
+from salvor.catalogue import plain_store, two_slots
 from salvor.disks import blank
 from salvor.machine import Machine
-from salvor.stores import check
 from tests.builders import ZERO, make
 from tests.model import Maker, Model
-from tests.samples import journal, plain, slots
 
 BARRIER = ("barrier",)
 PUT, SYNC, RECOVER = 5, 6, 7
@@ -34,7 +33,7 @@ def described(machine):
 
 class Fields(unittest.TestCase):
     def test_of_a_new_machine(self):
-        store = slots(False)
+        store = two_slots(False)
         contents = ((1, 2), (3, 4))
         machine = Machine(store, contents)
         self.assertEqual(machine.store, store)
@@ -59,12 +58,6 @@ class Fields(unittest.TestCase):
         twin.store[PUT][0][2].clear()
         self.assertEqual(machine.store, before)
 
-    def test_samples_are_valid(self):
-        for keys in (1, 2, 3):
-            for flag in (False, True):
-                for store in (plain(keys, flag), slots(flag), journal(keys, flag)):
-                    self.assertIsNone(check(store))
-
 
 class Mappings(unittest.TestCase):
     def test_a_word_for_each_key(self):
@@ -75,7 +68,7 @@ class Mappings(unittest.TestCase):
         self.assertEqual(Machine(make(found=num(4)), ((0,),)).mapping(), (4,))
 
     def test_what_is_in_the_cache_is_found(self):
-        machine = fresh(plain(2, False))
+        machine = fresh(plain_store(2, False))
         put(machine, 1, 6)
         self.assertEqual(machine.mapping(), (0, 6))
         machine.disk.barrier()
@@ -114,7 +107,7 @@ class Mappings(unittest.TestCase):
 
 class Duplicates(unittest.TestCase):
     def setUp(self):
-        self.machine = fresh(slots(False))
+        self.machine = fresh(two_slots(False))
         put(self.machine, 0, 5)
         self.before = ([0, 1], (((0, 0), (0, 0)), ((1, (1, 5)),)), (5,))
 
@@ -168,57 +161,6 @@ class Duplicates(unittest.TestCase):
                 one.run(one.store[RECOVER], {})
             self.assertEqual(described(twin), described(self.machine))
             self.assertEqual(twin.take_cuts(), self.machine.take_cuts())
-
-
-class Runs(unittest.TestCase):
-    """Runs one behind the other, with cuts that are written out."""
-
-    def test_a_plain_store(self):
-        machine = fresh(plain(2, True))
-        put(machine, 0, 5)
-        put(machine, 1, 6)
-        machine.run(machine.store[SYNC], {})
-        machine.run(machine.store[RECOVER], {})
-        self.assertEqual(machine.take_cuts(), [(((0,), (0,)), ((0, (5,)),)), (((5,), (0,)), ()),
-                                               (((5,), (0,)), ((1, (6,)),)), (((5,), (6,)), ()), (((5,), (6,)), ())])
-        self.assertEqual(described(machine), ([], (((5,), (6,)), ()), (5, 6)))
-
-    def test_two_slots(self):
-        machine = fresh(slots(False))
-        for word in (7, 8, 9):
-            put(machine, 0, word)
-        blanks = ((0, 0), (0, 0))
-        writes = ((1, (1, 7)), (0, (2, 8)), (1, (3, 9)))
-        self.assertEqual(machine.take_cuts(), [(blanks, writes[:many]) for many in (1, 2, 3)])
-        self.assertEqual(described(machine), ([0, 1], (blanks, writes), (9,)))
-        machine.run(machine.store[RECOVER], {})
-        self.assertEqual(machine.take_cuts(), [(((2, 8), (3, 9)), ())])
-        self.assertEqual(machine.mapping(), (9,))
-
-    def test_a_count_that_wraps(self):
-        machine = Machine(slots(True), ((15, 3), (14, 4)))
-        self.assertEqual(machine.mapping(), (3,))
-        put(machine, 0, 6)
-        self.assertEqual(described(machine), ([0, 1], (((15, 3), (0, 6)), ()), (3,)))
-
-    def test_a_journal(self):
-        machine = fresh(journal(2, False))
-        put(machine, 1, 9)
-        blanks, clear = ((0, 0, 0),) * 3, (0, 0, 0)
-        writes = ((0, (1, 1, 9)), (2, (9, 0, 0)), (0, clear))
-        self.assertEqual(machine.take_cuts(), [(blanks, writes[:many]) for many in (1, 2, 3)])
-        self.assertEqual(machine.mapping(), (0, 9))
-        machine.run(machine.store[RECOVER], {})
-        self.assertEqual(machine.take_cuts(), [])
-
-    def test_a_journal_that_is_recovered(self):
-        machine = Machine(journal(2, True), ((1, 1, 9), (4, 0, 0), (0, 0, 0)))
-        self.assertEqual(machine.mapping(), (4, 0))
-        machine.run(machine.store[RECOVER], {})
-        full, done = ((1, 1, 9), (4, 0, 0), (9, 0, 0)), ((0, 0, 0), (4, 0, 0), (9, 0, 0))
-        self.assertEqual(machine.take_cuts(), [(((1, 1, 9), (4, 0, 0), (0, 0, 0)), ((2, (9, 0, 0)),)), (full, ()),
-                                               (full, ((0, (0, 0, 0)),)), (done, ())])
-        self.assertEqual(described(machine), ([], (done, ()), (4, 9)))
 
 
 class Compared(unittest.TestCase):
