@@ -11,6 +11,11 @@ def image(snapshot, tears, row):
     return tuple([outcomes(snapshot, sector, tears)[choice] for sector, choice in enumerate(row)])
 
 
+def can_leave(snapshot, tears, left):
+    """Tells whether a crash can leave an image."""
+    return all([words in outcomes(snapshot, sector, tears) for sector, words in enumerate(left)])
+
+
 def rows(snapshot, tears):
     """Returns the list of all rows of choices in ascending order."""
     found = [()]

@@ -80,3 +80,10 @@ def loops_deep(levels):
     for _ in range(levels):
         body = [("loop", 0, 1, body)]
     return body
+
+
+def lists_in(part):
+    """Returns all lists in a value, the lists in lists too."""
+    if not isinstance(part, (list, tuple)):
+        return []
+    return [part] * isinstance(part, list) + [found for inner in part for found in lists_in(inner)]

@@ -5,6 +5,7 @@ a reader sees is searched for in the list of all writes.
 """
 
 import copy
+import functools
 
 from salvor.errors import StoreError
 from salvor.stores import check
@@ -63,19 +64,25 @@ def lines(body, margin):
     return found
 
 
+@functools.lru_cache(5000)
+def code(text, mode="exec"):
+    """Returns a program of Python, which many machines run."""
+    return compile(text, "model", mode)
+
+
 class Model:
     """The state of the second machine."""
 
     def __init__(self, store, contents):
         self.store = store
         self.state = {"durable": list(contents), "pending": [], "v": [0] * store[4], "cuts": []}
-        exec(HELPERS, self.state)
+        exec(code(HELPERS), self.state)
 
     def run(self, body, given):
-        exec("\n".join(lines(body, "")), self.state, {"given": given})
+        exec(code("\n".join(lines(body, ""))), self.state, {"given": given})
 
     def value(self, e, given):
-        return int(eval(expression(e), self.state, {"given": given}))
+        return int(eval(code(expression(e), "eval"), self.state, {"given": given}))
 
     def mapping(self):
         found = []

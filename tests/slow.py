@@ -69,3 +69,51 @@ def expected_successors(cuts, tears):
                 seen.append(image)
                 found.append((cut, row, (session, image, allowed)))
     return found
+
+
+def first(store):
+    """Returns the first state."""
+    return 0, ((0,) * store[2],) * store[1], ((0,) * store[3],)
+
+
+def slow_walk(store, sessions, tears, limit):
+    """Returns the verdict of the joined walk, or ("limit", limit)."""
+    states = [first(store)]
+    paths = [()]
+    for at in itertools.count():
+        if at == len(states):
+            return "safe", states
+        mapping, cuts = expected_later(store, sessions, states[at])
+        if mapping not in states[at][2]:
+            return "unsafe", paths[at], mapping
+        for cut, row, later in expected_successors(cuts, tears):
+            if later not in states:
+                if len(states) == limit:
+                    return "limit", limit
+                states.append(later)
+                paths.append(paths[at] + ((cut, row),))
+
+
+def slow_audit(store, sessions, tears, states):
+    """Tells whether a paper is accepted: it looks through the whole paper for each state."""
+    def covered(state):
+        return any(known[:2] == state[:2] and all(mapping in state[2] for mapping in known[2]) for known in states)
+
+    def kept(state):
+        mapping, cuts = expected_later(store, sessions, state)
+        return mapping in state[2] and all(covered(later) for _, _, later in expected_successors(cuts, tears))
+
+    return covered(first(store)) and all(kept(state) for state in states)
+
+
+def slow_repair(store, sessions, tears, limit, most):
+    """Returns the best repair: it tries all lists of places, and each by a slow walk."""
+    spots = [(b, i) for b in (5, 6, 7) for i in range(len(store[b]) + 1)]
+    for size in range(most + 1):
+        for chosen in itertools.combinations(spots, size):
+            repaired = list(store)
+            for b, i in reversed(chosen):
+                repaired[b] = repaired[b][:i] + [("barrier",)] + repaired[b][i:]
+            if slow_walk(tuple(repaired), sessions, tears, limit)[0] == "safe":
+                return list(chosen)
+    return None

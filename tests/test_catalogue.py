@@ -6,6 +6,7 @@ import unittest
 from salvor.catalogue import journal_store, plain_store, two_slots
 from salvor.machine import Machine
 from salvor.stores import check
+from tests.builders import lists_in
 
 CLEAR = (0, 0, 0)
 FLAGS = (False, True)
@@ -26,13 +27,6 @@ def sync(machine):
 def recover(machine):
     machine.run(machine.store[7], {})
     return machine.take_cuts()
-
-
-def lists_in(part):
-    """Returns all lists in a store, the lists in lists too."""
-    if not isinstance(part, (list, tuple)):
-        return []
-    return [part] * isinstance(part, list) + [found for inner in part for found in lists_in(inner)]
 
 
 class Stores(unittest.TestCase):

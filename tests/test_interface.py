@@ -1,4 +1,4 @@
-"""The names, arguments and places that the interface lists, as far as they have landed."""
+"""The names, arguments and places that the interface lists."""
 
 import importlib
 import inspect
@@ -15,6 +15,13 @@ FUNCTIONS = {
                       "successors": ["cuts", "tears"]},
     "salvor.catalogue": {"plain_store": ["keys", "barriers"], "two_slots": ["barriers"],
                          "journal_store": ["keys", "ordered"]},
+    "salvor.walks": {"plain_walk": ["store", "sessions", "tears", "crashes"],
+                     "joined_walk": ["store", "sessions", "tears", "limit"],
+                     "replay": ["store", "sessions", "tears", "path"]},
+    "salvor.papers": {"audit": ["store", "sessions", "tears", "states"]},
+    "salvor.report": {"report": ["verdict"], "state_lines": ["states"]},
+    "salvor.repairs": {"places": ["store"], "with_barriers": ["store", "chosen"],
+                       "repair": ["store", "sessions", "tears", "limit", "most"]},
 }
 CLASSES = {
     "salvor.errors": {"SalvorError": {}, "StoreError": {}, "LimitError": {}, "PathError": {}},
