@@ -68,13 +68,14 @@ def needed_places(store, sessions, tears, chosen, path):
     # A barrier takes away from what a crash can leave and adds nothing. So if the path is still there with more
     # barriers, there is a bad state with any part of them, too: every repair has a place that is not among them.
     states = states_on(with_barriers(store, chosen), sessions, tears, path)
+    others = [place for place in places(store) if place not in chosen]
     harmless = list(chosen)
     needed = []
-    for place in [place for place in places(store) if place not in chosen]:
-        if leads_through(with_barriers(store, harmless + [place]), sessions, tears, states):
-            harmless.append(place)
+    for other in others:
+        if leads_through(with_barriers(store, harmless + [other]), sessions, tears, states):
+            harmless.append(other)
         else:
-            needed.append(place)
+            needed.append(other)
     return needed
 
 

@@ -156,6 +156,14 @@ class Repairs(unittest.TestCase):
         self.assertIsNone(repair(store, [[put(3)]], False, 99, 3))
         self.assertEqual(repair(store, [[put(3)]], False, 99, 4), [(5, 1), (5, 2), (5, 3), (5, 4)])
 
+    def test_a_bad_state_that_several_cuts_lead_to(self):
+        # Each time that both sectors change, a barrier must stand between. One barrier alone closes none of the ways.
+        writes = [("write", ("num", at), [e]) for at, e in ((0, ("value",)), (1, ("value",)), (1, ZERO), (0, ZERO))]
+        words = [("read", ("num", at), ZERO) for at in (0, 1)]
+        store = make(2, 1, 1, 0, writes + writes[:2], [], [], [], ("*", ("num", 3), ("<", words[0], words[1])))
+        self.assertIsNone(repair(store, [[put(5)]], False, 99, 2))
+        self.assertEqual(repair(store, [[put(5)]], False, 99, 3), [(5, 1), (5, 3), (5, 5)])
+
     def test_most_is_too_small(self):
         self.assertIsNone(repair(plain_store(2, False), self.two_puts, False, 99, 0))
         self.assertIsNone(repair(bare(journal_store(2, True)), [[put(5), put(6, 1), SYNC, put(7)]], False, 999, 1))
@@ -200,6 +208,12 @@ class Repairs(unittest.TestCase):
             found = repair(store, sessions, False, 999, most)
             self.assertEqual(joined_walk(with_barriers(store, found), sessions, False, 999)[0], "safe")
             self.assertEqual(len(found), 2)
+
+    def test_nothing_helps_long_bodies(self):
+        # There are millions of lists of four places: the first bad path must show that all are in vain.
+        store = two_slots(True)
+        store = store[:5] + tuple(body + [SET] * (50 - len(body)) for body in store[5:8]) + store[8:]
+        self.assertIsNone(repair(store, [[put(5), SYNC, put(6)]], True, 999, 4))
 
     def check(self, store, sessions, tears, limit, most):
         before = copy.deepcopy((store, sessions))
